@@ -4,18 +4,9 @@ import (
 	"slices"
 
 	"intaglio/api"
-	"intaglio/grammar"
+	"intaglio/blocks"
 	"intaglio/ids"
 	"intaglio/layout"
-)
-
-// The operations that say where a block leads.
-const (
-	opLoopMerge         = 246
-	opSelectionMerge    = 247
-	opBranch            = 249
-	opBranchConditional = 250
-	opSwitch            = 251
 )
 
 // New is the graph of a function's blocks, and what their merges say.
@@ -27,10 +18,7 @@ func New(m api.Module, f api.Func) (*Graph, []api.Merge, api.Spot) {
 	if !slices.ContainsFunc(all, func(o api.Func) bool { return sameFunc(o, f) }) {
 		return nil, nil, api.Spot{Err: api.ErrArg}
 	}
-	if len(f.Blocks) > api.MaxNodes {
-		return nil, nil, api.Spot{Err: api.ErrLarge, At: f.At}
-	}
-	next, merges, s := lead(m.Insts, f.Blocks)
+	next, merges, s := blocks.Lead(m, f)
 	if s.Err != api.OK {
 		return nil, nil, s
 	}
@@ -38,108 +26,9 @@ func New(m api.Module, f api.Func) (*Graph, []api.Merge, api.Spot) {
 }
 
 // Targets are the labels to which an instruction branches.
-func Targets(i api.Inst) []uint32 {
-	from, step := targetsAt(i.Op)
-	if step == 0 || !fits(i) {
-		return nil
-	}
-	var l []uint32
-	for at := from; at < len(i.Args); at += step {
-		l = append(l, i.Args[at].N)
-	}
-	return l
-}
-
-// targetsAt says where the targets stand among an operation's arguments: where the first one does, and how far it is from each to the next; 0 and 0, if it has none.
-func targetsAt(op uint16) (from, step int) {
-	switch op {
-	case opBranch:
-		return 0, 1
-	case opBranchConditional:
-		return 1, 1
-	case opSwitch:
-		return 1, 2
-	}
-	return 0, 0
-}
-
-// fits says whether an instruction's arguments fit its operation.
-func fits(i api.Inst) bool {
-	kinds := make([]uint8, len(i.Args))
-	for at, a := range i.Args {
-		kinds[at] = a.Kind
-	}
-	_, ok := grammar.Fits(i.Op, kinds)
-	return ok
-}
+func Targets(i api.Inst) []uint32 { return blocks.Targets(i) }
 
 // sameFunc says whether functions are the same in all fields.
 func sameFunc(a, b api.Func) bool {
 	return a.Id == b.Id && a.At == b.At && a.End == b.End && slices.Equal(a.Params, b.Params) && slices.Equal(a.Blocks, b.Blocks)
-}
-
-// numbers are those of a function's blocks, by their labels.
-type numbers map[uint32]int
-
-// lead says where each of a function's blocks leads, and what its merge says; else where one leads to what it may not.
-func lead(l []api.Inst, blocks []api.Block) ([][]int, []api.Merge, api.Spot) {
-	by := numbers{}
-	for n, b := range blocks {
-		by[b.Label] = n
-	}
-	var next [][]int
-	var merges []api.Merge
-	for _, b := range blocks {
-		// Where nothing else stands between a block's label and its last instruction the label is asked for the merge, and says none.
-		before, last := l[b.To-2], l[b.To-1]
-		merge, ok := by.merge(before, last)
-		if !ok {
-			return nil, nil, api.Spot{Err: api.ErrTarget, At: b.To - 2}
-		}
-		to, ok := by.find(Targets(last))
-		if !ok {
-			return nil, nil, api.Spot{Err: api.ErrTarget, At: b.To - 1}
-		}
-		next, merges = append(next, to), append(merges, merge)
-	}
-	return next, merges, api.Spot{}
-}
-
-// find are the numbers of the blocks of labels; false, if one of these is no block's, or that of the first one, to which nothing may lead.
-func (by numbers) find(labels []uint32) ([]int, bool) {
-	var l []int
-	for _, label := range labels {
-		// What is no block's label is 0 here, as the first one's is.
-		n := by[label]
-		if n == 0 {
-			return nil, false
-		}
-		l = append(l, n)
-	}
-	return l, true
-}
-
-// merge is what an instruction says that stands right ahead of a block's last one; false, if it leads to what it may not.
-func (by numbers) merge(before, last api.Inst) (api.Merge, bool) {
-	kind, labels := mergeOf(before, last)
-	to, ok := by.find(labels)
-	if !ok {
-		return api.Merge{}, false
-	}
-	// Where a merge has no second label, or there is none at all, -1 is found behind those that it has.
-	to = append(to, -1, -1)
-	return api.Merge{Kind: kind, To: to[0], Continue: to[1]}, true
-}
-
-// mergeOf is the kind of such an instruction, and the labels to which it leads.
-func mergeOf(before, last api.Inst) (uint8, []uint32) {
-	switch {
-	case before.Op == opLoopMerge:
-		return api.MergeLoop, []uint32{before.Args[0].N, before.Args[1].N}
-	case before.Op == opSelectionMerge && last.Op == opSwitch:
-		return api.MergeSwitch, []uint32{before.Args[0].N}
-	case before.Op == opSelectionMerge:
-		return api.MergeSelection, []uint32{before.Args[0].N}
-	}
-	return api.MergeNone, nil
 }
